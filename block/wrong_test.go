@@ -46,7 +46,7 @@ func examine(t *testing.T, x spoilt) {
 // P10.2, P10.3, P10.4, P10.5: the errors of the head.
 func TestWrongHeads(t *testing.T) {
 	const o, s, l, v = api.ErrTruncated, api.ErrSyntax, api.ErrLimit, api.ErrVersion
-	for _, x := range []spoilt{{b: "", head: o}, {b: "S", head: o}, {b: "SB", head: o}, {b: "XY", head: o}, {b: "SBx"[:2], head: o}, {b: "XB\x01", head: s}, {b: "SX\x01", head: s}, {b: "BS\x01", head: s}, {b: "sb\x01", head: s}, {b: "XX\x02", head: s},
+	for _, x := range []spoilt{{b: "", head: o}, {b: "S", head: o}, {b: "SB", head: o}, {b: "XY", head: o}, {b: "XB\x01", head: s}, {b: "SX\x01", head: s}, {b: "BS\x01", head: s}, {b: "sb\x01", head: s}, {b: "XX\x02", head: s},
 		{b: "SB\x00", head: v}, {b: "SB\x02", head: v}, {b: "SB\x81", head: v}, {b: "SB\xff", head: v}, {b: "SB1", head: v}, {b: "SB\x01", head: o},
 		{b: "SB\x01\x80\x00", head: s}, {b: "SB\x01\x80", head: o}, {b: "SB\x01\x11", head: l}, {b: "SB\x01\x80\x01", head: l}, {b: "SB\x01" + put(math.MaxUint64), head: l}, {b: "SB\x01" + put(1<<63), head: l}, {b: "SB\x01\xff\xff\xff\xff\xff\xff\xff\xff\xff\x02", head: s}, {b: "SB\x01\x10", head: o},
 		{b: "SB\x01\x01\x00", head: o}, {b: "SB\x01\x01\x81", head: o}, {b: "SB\x01\x01\x81\x00", head: s}, {b: "SB\x01\x01\x11", head: l}, {b: "SB\x01\x01\x11" + strings.Repeat("a", 17), head: l}, {b: "SB\x01\x01" + put(math.MaxUint64), head: l}, {b: "SB\x01\x01\x10" + strings.Repeat("a", 15), head: o}, {b: "SB\x01\x02\x01a", head: o}, {b: "SB\x01\x02\x01a\x02b", head: o},
@@ -129,12 +129,12 @@ func TestWrongBlocks(t *testing.T) {
 			{"no ticks", "\x00\x14\x01\x00\x00\x0a"}, {"no ticks at the end", "\x00\x14\x01\x0a\x00\x00"}, {"no ticks at the beginning", "\x00\x00\x01\x14\x00\x0a"}, {"more than MaxTime ticks", "\x00\x0a\x01" + put(1<<40+1) + "\x00\x0a"}, {"a negative number of ticks", "\x00\x14\x01" + put(math.MaxUint64-9) + "\x00\x14"}, {"half of all numbers", "\x00" + put(1<<63) + "\x01" + put(1<<63) + "\x00\x1e"},
 			{"a tick less", "\x00\x0a\x01\x09\x00\x0a"}, {"a tick more", "\x00\x0a\x01\x0a\x00\x0b"}, {"many ticks", "\x00\x0a\x01" + put(1<<40) + "\x00\x0a"}, {"few ticks", "\x00\x01\x01\x01\x00\x01"}, {"long", strings.Repeat("\x00\x0a", 5000)},
 		} {
-			for i, before := range []string{"", "", ""} {
+			for i := range 3 {
 				full := x.body
 				if i < 2 {
 					full = strings.Repeat("\x00"+ten+"\x01"+ten, 6) + "\x01" + ten + x.body
 				}
-				wrongBlock(t, x.what+before, c, s.with(i, full), i)
+				wrongBlock(t, x.what, c, s.with(i, full), i)
 			}
 		}
 	}
@@ -289,7 +289,7 @@ func changes(b string) []string {
 func TestChangedFields(t *testing.T) {
 	r := rand.New(rand.NewSource(3))
 	numbers := []uint64{0, 1, 2, 3, 15, 16, 17, 20, 39, 40, 41, 48, 49, 127, 128, 160, 320, 399, 400, 401, 1 << 16, 1 << 18, 1<<18 + 1, 1 << 20, 1<<20 + 1, 1 << 40, 1<<40 + 1, 1 << 62, 1 << 63, math.MaxUint64}
-	any := func() uint64 { return numbers[r.Intn(len(numbers))] }
+	one := func() uint64 { return numbers[r.Intn(len(numbers))] }
 	c := of(2, repeated(40, 10, 0, 3, 2, 1))
 	for range 20000 {
 		s := fields(c)
@@ -301,19 +301,19 @@ func TestChangedFields(t *testing.T) {
 			case 1:
 				s.version = byte(r.Intn(3))
 			case 2:
-				s.channels = any()
+				s.channels = one()
 			case 3:
 				s.names[r.Intn(2)] = []string{"\x01a", "\x01b", "\x00", "\x01A", "\x02a", "\x11aaaaaaaaaaaaaaaaa", "\x81\x00a"}[r.Intn(7)]
 			case 4:
-				s.runs = any()
+				s.runs = one()
 			case 5:
-				s.ticks = any()
+				s.ticks = one()
 			case 6:
-				s.blocks = any()
+				s.blocks = one()
 			case 7:
-				s.rows[i].first = any()
+				s.rows[i].first = one()
 			case 8:
-				s.rows[i].size = any()
+				s.rows[i].size = one()
 			case 9:
 				s.rows[i].sum++
 			case 10:
@@ -321,7 +321,7 @@ func TestChangedFields(t *testing.T) {
 			case 11:
 				s.bodies[i] = s.bodies[i][r.Intn(2):]
 			case 12:
-				s = s.with(i, strings.Replace(s.bodies[i], []string{"\x00", "\x01", "\x02", "\x03", "\x0a"}[r.Intn(5)], put(any()), 1+r.Intn(2)))
+				s = s.with(i, strings.Replace(s.bodies[i], []string{"\x00", "\x01", "\x02", "\x03", "\x0a"}[r.Intn(5)], put(one()), 1+r.Intn(2)))
 			case 13:
 				s.runs, s.blocks = s.runs+16, s.blocks+1
 			}
