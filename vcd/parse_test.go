@@ -69,8 +69,9 @@ func TestParse(t *testing.T) {
 	}
 }
 
-// P11.2, P11.3: all lists of up to five of these lines, with and without the end of the last one.
-func TestParseOfAllListsOfLines(t *testing.T) {
+// P11.2, P11.3: all lists of up to three of these lines and all of up to five that begin rightly, with and without the
+// end of the last one.
+func TestParseOfListsOfLines(t *testing.T) {
 	accepted := 0
 	for _, heads := range [][]string{{"channels a", "0 1", "0 0", "1 0", "2 1", "9 0", "end 0", "end 2", "end 9", ""}, {"channels a b", "0 01", "0 11", "2 01", "2 10", "3 1", "end 0", "end 3", "channels a a"}} {
 		for n := range 6 {
