@@ -1,0 +1,127 @@
+package nrzi_test
+
+import (
+	"fmt"
+	"math/rand"
+	"slices"
+	"strings"
+	"testing"
+
+	"signalbench/api"
+	"signalbench/nrzi"
+)
+
+const end = api.MaxTime
+
+var (
+	one  = api.Nrzi{}
+	zero = api.Nrzi{Zero: true}
+	both = []api.Nrzi{one, zero}
+)
+
+// bit returns an event of a bit.
+func bit(value, from, to, aux, fault int) api.Event {
+	return api.Event{Kind: api.EvBit, From: from, To: to, Value: value, Aux: aux, Fault: fault}
+}
+
+// bits returns an event of 4 ticks for each bit of s, one after the other, the first one from a tick on.
+func bits(s string, at int) []api.Event {
+	var l []api.Event
+	for i := range s {
+		l = append(l, bit(int(s[i]-'0'), at+4*i, at+4*i+4, 0, api.FtNone))
+	}
+	return l
+}
+
+// sequence returns the n lowest bits of a number, the lowest one first.
+func sequence(number, n int) string {
+	var s strings.Builder
+	for i := range n {
+		s.WriteByte('0' + byte(number>>i&1))
+	}
+	return s.String()
+}
+
+// model returns the decoded bits of s, from the definition.
+func model(c api.Nrzi, s string) string {
+	changed, same := "1", "0"
+	if c.Zero {
+		changed, same = same, changed
+	}
+	var l strings.Builder
+	last := '1'
+	for _, b := range s {
+		if b == last {
+			l.WriteString(same)
+		} else {
+			l.WriteString(changed)
+		}
+		last = b
+	}
+	return l.String()
+}
+
+// decoded returns what accepted events are decoded as, from the definitions.
+func decoded(c api.Nrzi, l []api.Event) []api.Event {
+	var s strings.Builder
+	for _, e := range l {
+		s.WriteByte('0' + byte(e.Value))
+	}
+	var all []api.Event
+	for i, b := range model(c, s.String()) {
+		all = append(all, bit(int(b-'0'), l[i].From, l[i].To, l[i].Aux, l[i].Fault))
+	}
+	return all
+}
+
+// decodes reports an error unless Decode returns these events, and Step and End the same, one after the other.
+func decodes(t *testing.T, c api.Nrzi, l, want []api.Event) {
+	t.Helper()
+	if got := nrzi.Decode(c, l); !slices.Equal(got, want) {
+		t.Errorf("%v %s: %s, not %s", c, brief(l), brief(got), brief(want))
+	}
+	s := nrzi.Start(c)
+	var all []api.Event
+	for _, e := range l {
+		next, events := nrzi.Step(c, s, e)
+		s, all = next, append(all, events...)
+	}
+	if last := nrzi.End(c, s); len(last) > 0 || !slices.Equal(all, want) {
+		t.Errorf("%v %s: steps %s, end %v, not %s", c, brief(l), brief(all), last, brief(want))
+	}
+}
+
+// random returns accepted events with random fields; some of them begin at the same tick, overlap, are empty or faulty.
+func random(r *rand.Rand, n int) []api.Event {
+	var l []api.Event
+	from := r.Intn(1 << r.Intn(39))
+	for range n {
+		b := bit(r.Intn(2), from, from+r.Intn(20), 0, api.FtNone)
+		if r.Intn(3) == 0 {
+			b.Fault = r.Intn(api.FtUnknown + 1)
+		}
+		if r.Intn(3) == 0 {
+			b.Aux = r.Intn(1<<54) - 1<<53
+		}
+		if r.Intn(3) == 0 {
+			b.Data = strings.Repeat("x", r.Intn(5))
+		}
+		l = append(l, b)
+		from += r.Intn(3) * r.Intn(20)
+	}
+	return l
+}
+
+// items returns items with these data.
+func items(data ...string) []api.Item {
+	var l []api.Item
+	for i, d := range data {
+		l = append(l, api.Item{Gap: i, Data: d})
+	}
+	return l
+}
+
+// brief returns the beginning and the length of a list as text.
+func brief[T any](l []T) string {
+	return fmt.Sprintf("%.300q of %d", fmt.Sprint(l[:min(len(l), 8)]), len(l))
+}
