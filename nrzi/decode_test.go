@@ -1,13 +1,13 @@
 package nrzi_test
 
 import (
-	"math"
 	"math/rand"
 	"slices"
 	"strings"
 	"testing"
 
 	"signalbench/api"
+	"signalbench/decodertest"
 	"signalbench/nrzi"
 )
 
@@ -54,7 +54,7 @@ func TestFaults(t *testing.T) {
 	for fault := api.FtNone; fault <= api.FtUnknown; fault++ {
 		for number := range 1 << 4 {
 			for mask := range 1 << 4 {
-				l := bits(sequence(number, 4), 9)
+				l := bits(decodertest.Sequence(number, 4), 9)
 				for i := range l {
 					l[i].Fault = mask >> i & 1 * fault
 				}
@@ -72,7 +72,7 @@ func TestShortSequences(t *testing.T) {
 	for _, c := range both {
 		for n := range 13 {
 			for number := range 1 << n {
-				s := sequence(number, n)
+				s := decodertest.Sequence(number, n)
 				decodes(t, c, bits(s, number), bits(model(c, s), number))
 			}
 		}
@@ -135,39 +135,7 @@ func TestInvertedInput(t *testing.T) {
 
 // ignored returns events that differ from the given one in a way in which they are never accepted.
 func ignored(e api.Event) []api.Event {
-	var l []api.Event
-	for _, kind := range []int{math.MinInt, -1, 0, api.EvLevel, api.EvByte, api.EvMark, api.EvFrame, api.EvPacket, api.EvCommand, api.EvPair, 9, math.MaxInt} {
-		other := e
-		other.Kind = kind
-		l = append(l, other)
-	}
-	for _, value := range []int{math.MinInt, -1 << 53, -2, -1, 2, 3, 4, 48, 49, 1 << 53, math.MaxInt} {
-		other := e
-		other.Value = value
-		l = append(l, other)
-	}
-	for _, fault := range []int{math.MinInt, -1, 13, math.MaxInt} {
-		other := e
-		other.Fault = fault
-		l = append(l, other)
-	}
-	for _, to := range []int{math.MinInt, -1, e.From - 1, end + 1, math.MaxInt} {
-		other := e
-		other.To = to
-		l = append(l, other)
-	}
-	for _, from := range []int{math.MinInt, -1, e.To + 1, math.MaxInt} {
-		other := e
-		other.From = from
-		l = append(l, other)
-	}
-	for _, aux := range []int{math.MinInt, -1<<53 - 1, 1<<53 + 1, math.MaxInt} {
-		other := e
-		other.Aux = aux
-		l = append(l, other)
-	}
-	e.Data = strings.Repeat("1", api.MaxData+1)
-	return append(l, e)
+	return slices.Concat(decodertest.Invalid(e), decodertest.OtherKinds(e), decodertest.Changed(e, decodertest.Value, -1<<53, -2, -1, 2, 3, 4, 48, 49, 1<<53))
 }
 
 // D4: an ignored event changes nothing, be it faulty or not.
@@ -187,10 +155,8 @@ func TestIgnoredEvents(t *testing.T) {
 					wrong = append(wrong, bit(e.Value, last-1, e.To, 0, fault), bit(1-e.Value, last-1, last+8, 0, fault), bit(1-e.Value, 0, end, 0, fault))
 				}
 			}
-			for _, x := range wrong {
-				if next, events := nrzi.Step(c, s, x); next != s || len(events) > 0 {
-					t.Errorf("%v %v: %v %v, not %v", c, x, next, events, s)
-				}
+			if got := functions.NotIgnored(c, s, wrong); len(got) > 0 {
+				t.Errorf("%v: not ignored: %s", c, brief(got))
 			}
 			mixed = append(append(mixed, wrong...), e)
 			s, _ = nrzi.Step(c, s, e)

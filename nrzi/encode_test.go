@@ -8,6 +8,7 @@ import (
 	"testing"
 
 	"signalbench/api"
+	"signalbench/decodertest"
 	"signalbench/nrzi"
 )
 
@@ -81,7 +82,7 @@ func TestEncodeShortSequences(t *testing.T) {
 	for _, c := range both {
 		for n := range 13 {
 			for number := range 1 << n {
-				s := sequence(number, n)
+				s := decodertest.Sequence(number, n)
 				encodes(t, c, items(s))
 				encodes(t, c, items(s[:n/3], s[n/3:n/2], s[n/2:]))
 			}
@@ -173,7 +174,7 @@ func TestRoundTrip(t *testing.T) {
 	for range 500 {
 		var data []string
 		for range r.Intn(8) {
-			data = append(data, sequence(r.Int(), r.Intn(62)), strings.Repeat("0", r.Intn(3)))
+			data = append(data, decodertest.Sequence(r.Int(), r.Intn(62)), strings.Repeat("0", r.Intn(3)))
 		}
 		l := items(data...)
 		for _, c := range both {

@@ -8,10 +8,14 @@ import (
 	"testing"
 
 	"signalbench/api"
+	"signalbench/decodertest"
 	"signalbench/nrzi"
 )
 
 const end = api.MaxTime
+
+// functions are those of the decoder.
+var functions = decodertest.Decoder[api.Nrzi]{Start: nrzi.Start, Step: nrzi.Step, End: nrzi.End}
 
 var (
 	one  = api.Nrzi{}
@@ -31,15 +35,6 @@ func bits(s string, at int) []api.Event {
 		l = append(l, bit(int(s[i]-'0'), at+4*i, at+4*i+4, 0, api.FtNone))
 	}
 	return l
-}
-
-// sequence returns the n lowest bits of a number, the lowest one first.
-func sequence(number, n int) string {
-	var s strings.Builder
-	for i := range n {
-		s.WriteByte('0' + byte(number>>i&1))
-	}
-	return s.String()
 }
 
 // model returns the decoded bits of s, from the definition.
@@ -80,14 +75,9 @@ func decodes(t *testing.T, c api.Nrzi, l, want []api.Event) {
 	if got := nrzi.Decode(c, l); !slices.Equal(got, want) {
 		t.Errorf("%v %s: %s, not %s", c, brief(l), brief(got), brief(want))
 	}
-	s := nrzi.Start(c)
-	var all []api.Event
-	for _, e := range l {
-		next, events := nrzi.Step(c, s, e)
-		s, all = next, append(all, events...)
-	}
-	if last := nrzi.End(c, s); len(last) > 0 || !slices.Equal(all, want) {
-		t.Errorf("%v %s: steps %s, end %v, not %s", c, brief(l), brief(all), last, brief(want))
+	all := functions.Steps(c, l)
+	if got := slices.Concat(all[:len(l)]...); len(all[len(l)]) > 0 || !slices.Equal(got, want) {
+		t.Errorf("%v %s: steps %s, end %v, not %s", c, brief(l), brief(got), all[len(l)], brief(want))
 	}
 }
 

@@ -8,6 +8,7 @@ import (
 	"testing"
 
 	"signalbench/api"
+	"signalbench/decodertest"
 	"signalbench/feed"
 	"signalbench/sampler"
 	"signalbench/wave"
@@ -110,21 +111,12 @@ func TestEncodeShortSequences(t *testing.T) {
 	for _, c := range clocks() {
 		for n := range 10 {
 			for number := range 1 << n {
-				s := sequence(number, n)
+				s := decodertest.Sequence(number, n)
 				encodes(t, c, of(s), s)
 				encodes(t, c, of(s[:n/3], s[n/3:]), s)
 			}
 		}
 	}
-}
-
-// sequence returns the n lowest bits of a number.
-func sequence(number, n int) string {
-	var s strings.Builder
-	for i := range n {
-		s.WriteByte('0' + byte(number>>i&1))
-	}
-	return s.String()
 }
 
 // P15.3, P15.4
@@ -134,7 +126,7 @@ func TestEncodeRandomItems(t *testing.T) {
 		for range 20 {
 			var data []string
 			for range r.Intn(10) {
-				data = append(data, sequence(r.Int(), r.Intn(64)), strings.Repeat(sequence(r.Int(), 1), r.Intn(300)))
+				data = append(data, decodertest.Sequence(r.Int(), r.Intn(64)), strings.Repeat(decodertest.Sequence(r.Int(), 1), r.Intn(300)))
 			}
 			encodes(t, c, of(data...), strings.Join(data, ""))
 		}

@@ -3,76 +3,45 @@ package sampler_test
 import (
 	"fmt"
 	"math/big"
-	"math/bits"
 	"math/rand"
 	"slices"
 	"testing"
 
 	"signalbench/api"
+	"signalbench/decodertest"
 	"signalbench/sampler"
 )
 
 const end = api.MaxTime
 
+// functions are those of the decoder.
+var functions = decodertest.Decoder[api.Clock]{Start: sampler.Start, Step: sampler.Step, End: sampler.End}
+
+var (
+	level  = decodertest.Level
+	levels = decodertest.Levels
+	drawn  = decodertest.Drawn
+	cut    = decodertest.Cut
+)
+
 // clock returns the clock with this bit time.
 func clock(num, den int) api.Clock { return api.Clock{T: api.Ratio{Num: num, Den: den}} }
 
-// clocks returns valid clocks with the least and the greatest bit times, whole and broken ones, and the greatest parts.
+// clocks returns valid clocks.
 func clocks() []api.Clock {
-	return []api.Clock{
-		clock(4, 1), clock(9, 2), clock(5, 1), clock(13, 3), clock(23, 5), clock(6, 1), clock(20, 3), clock(8, 1), clock(434, 5), clock(100, 1),
-		clock(1<<30-3, 1<<28-1), clock(1<<30, 1<<28-1), clock(1<<30-1, 1<<27), clock(1<<30-1, 1<<20), clock(1<<30, 1025), clock(1<<30-1, 1<<10), clock(1<<20, 1),
-	}
-}
-
-// level returns an event of a level.
-func level(value, from, to int) api.Event {
-	return api.Event{Kind: api.EvLevel, From: from, To: to, Value: value}
-}
-
-// levels returns events of levels, the first of which begins at a tick, with these levels and numbers of ticks, which alternate.
-func levels(at int, n ...int) []api.Event {
-	var l []api.Event
-	for i := 0; i < len(n); i += 2 {
-		l = append(l, level(n[i], at, at+n[i+1]))
-		at += n[i+1]
+	var l []api.Clock
+	for _, t := range decodertest.BitTimes() {
+		l = append(l, api.Clock{T: t})
 	}
 	return l
 }
+
+// times returns the greatest integer that is not greater than n * T / d.
+func times(c api.Clock, n, d int) int { return decodertest.Times(c.T, n, d) }
 
 // bit returns an event of a bit.
 func bit(value, from, to, fault int) api.Event {
 	return api.Event{Kind: api.EvBit, From: from, To: to, Value: value, Fault: fault}
-}
-
-// drawn returns events of one tick each with the n lowest bits of a number as levels, the lowest one at tick 0.
-func drawn(number, n int) []api.Event {
-	var l []api.Event
-	for i := range n {
-		l = append(l, level(number>>i&1, i, i+1))
-	}
-	return l
-}
-
-// cut returns the events joined, apart from the bounds between two of them that a mask selects.
-func cut(l []api.Event, mask int) []api.Event {
-	var all []api.Event
-	for i, e := range l {
-		last := len(all) - 1
-		if i > 0 && mask>>(i-1)&1 == 0 && all[last].Value == e.Value {
-			all[last].To = e.To
-		} else {
-			all = append(all, e)
-		}
-	}
-	return all
-}
-
-// times returns the greatest integer that is not greater than n * T / d, from a product of 128 bits.
-func times(c api.Clock, n, d int) int {
-	high, low := bits.Mul64(uint64(n), uint64(c.T.Num))
-	quotient, _ := bits.Div64(high, low, uint64(d)*uint64(c.T.Den))
-	return int(quotient)
 }
 
 // far reports whether a distance is greater than T / 4.
@@ -147,20 +116,18 @@ func decodes(t *testing.T, c api.Clock, l, want []api.Event) {
 	}
 }
 
-// steps reports an error unless each Step for events of levels that follow one another returns the bits that it determines, and Decode all of them.
+// steps reports an error unless each Step for events of levels that follow one another returns the bits that it determines, End none, and Decode all of them.
 func steps(t *testing.T, c api.Clock, l []api.Event) {
 	t.Helper()
 	all := model(c, l)
-	s := sampler.Start(c)
-	for i, e := range l {
-		var got []api.Event
-		s, got = sampler.Step(c, s, e)
-		if want := part(all, e); !slices.Equal(got, want) {
+	for i, got := range functions.Steps(c, l) {
+		var want []api.Event
+		if i < len(l) {
+			want = part(all, l[i])
+		}
+		if !slices.Equal(got, want) {
 			t.Errorf("%v %s: step %d: %s, not %s", c.T, brief(l), i, brief(got), brief(want))
 		}
-	}
-	if last := sampler.End(c, s); len(last) > 0 {
-		t.Errorf("%v %s: end: %v", c.T, brief(l), last)
 	}
 	decodes(t, c, l, within(all))
 }

@@ -2,8 +2,11 @@ package sampler
 
 import (
 	"signalbench/api"
-	"signalbench/event"
+	"signalbench/decoder"
 )
+
+// channels is the number of channels that a sampler reads.
+const channels = 1
 
 // The phases of a state.
 const (
@@ -35,14 +38,8 @@ func (m *machine) step(e api.Event) []api.Event {
 
 // accepts reports whether e is an event of a level that continues the accepted events.
 func (m *machine) accepts(e api.Event) bool {
-	if !event.Valid(e) || e.Kind != api.EvLevel || e.Fault != api.FtNone || e.From == e.To || e.Value != 0 && e.Value != 1 {
-		return false
-	}
-	if m.s.Phase == waiting {
-		return true
-	}
 	// Every state of this package has its anchor within the accepted events. For another state, differences could overflow.
-	return e.From == m.s.At && 0 <= m.s.From && m.s.From <= m.s.At
+	return decoder.AcceptsLevel(m.s.At, channels, e) && 0 <= m.s.From && m.s.From <= m.s.At
 }
 
 // change makes a tick at which the level changes the anchor.
@@ -56,7 +53,7 @@ func (m *machine) change(at int) {
 // bits returns the bits of the anchor whose samples lie from a tick on and before the end of the accepted events.
 func (m *machine) bits(from int) []api.Event {
 	var l []api.Event
-	for k := samples(m.t, from-m.s.From); m.s.From+sample(m.t, k) < m.s.At; k++ {
+	for k := samples(m.t, from-m.s.From); m.s.From+decoder.Sample(m.t, k) < m.s.At; k++ {
 		l = append(l, m.bit(k))
 		m.s.Phase = steady
 	}
@@ -67,8 +64,8 @@ func (m *machine) bits(from int) []api.Event {
 func (m *machine) bit(k int) api.Event {
 	b := api.Event{
 		Kind:  api.EvBit,
-		From:  m.s.From + boundary(m.t, k),
-		To:    min(m.s.From+boundary(m.t, k+1), api.MaxTime),
+		From:  m.s.From + decoder.Boundary(m.t, k),
+		To:    min(m.s.From+decoder.Boundary(m.t, k+1), api.MaxTime),
 		Value: m.s.Prev,
 	}
 	if m.s.Phase == disturbed {

@@ -5,16 +5,9 @@ import (
 	"testing"
 
 	"signalbench/api"
+	"signalbench/decodertest"
 	"signalbench/sampler"
 )
-
-// spoil overwrites a list with an element, also behind its end.
-func spoil[T any](l []T, x T) {
-	l = l[:cap(l)]
-	for i := range l {
-		l[i] = x
-	}
-}
 
 // R2, R3: the arguments stay as they are, also behind their ends, results are new memory, and a call returns the same again.
 func TestMemory(t *testing.T) {
@@ -31,11 +24,11 @@ func TestMemory(t *testing.T) {
 			if !slices.Equal(decoded, within(model(c, all[:n]))) || !slices.Equal(bits, wanted) || !slices.Equal(runs, first) {
 				t.Errorf("%d: %v %v %v", n, decoded, bits, runs)
 			}
-			_, step := sampler.Step(c, after(c, events[:n]), events[n])
-			spoil(step, bit(9, 9, 9, 9))
-			spoil(decoded, bit(9, 9, 9, 9))
-			spoil(bits, bit(9, 9, 9, 9))
-			spoil(runs, api.Run{Level: 9, Ticks: 9})
+			_, step := sampler.Step(c, functions.After(c, events[:n]), events[n])
+			decodertest.Spoil(step, bit(9, 9, 9, 9))
+			decodertest.Spoil(decoded, bit(9, 9, 9, 9))
+			decodertest.Spoil(bits, bit(9, 9, 9, 9))
+			decodertest.Spoil(runs, api.Run{Level: 9, Ticks: 9})
 			if !slices.Equal(events, all) || !slices.Equal(items, read) {
 				t.Fatalf("%d: %v %v", n, events, items)
 			}

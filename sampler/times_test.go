@@ -7,6 +7,7 @@ import (
 	"testing"
 
 	"signalbench/api"
+	"signalbench/decodertest"
 )
 
 // farClocks returns bit times whose products with far ticks do not fit into 64 bits, and others.
@@ -17,12 +18,6 @@ func farClocks() []api.Ratio {
 	}
 }
 
-// exact returns the greatest integer that is not greater than n * t / d.
-func exact(t api.Ratio, n, d int) int {
-	product := new(big.Int).Mul(big.NewInt(int64(n)), big.NewInt(int64(t.Num)))
-	return int(product.Div(product, new(big.Int).Mul(big.NewInt(int64(d)), big.NewInt(int64(t.Den)))).Int64())
-}
-
 // placed returns the number of samples before a tick, counted from a number that is not too great, and whether every boundary is far from it.
 func placed(t api.Ratio, tick int) (int, bool) {
 	whole := new(big.Int).Mul(big.NewInt(int64(tick)), big.NewInt(int64(t.Den)))
@@ -30,16 +25,16 @@ func placed(t api.Ratio, tick int) (int, bool) {
 	quarter := big.NewRat(int64(t.Num), 4*int64(t.Den))
 	stray := true
 	for i := k; i < k+5; i++ {
-		b := exact(t, i, 1)
+		b := decodertest.Times(t, i, 1)
 		stray = stray && big.NewRat(int64(max(tick-b, b-tick)), 1).Cmp(quarter) > 0
 	}
-	for exact(t, 2*k+1, 2) < tick {
+	for decodertest.Times(t, 2*k+1, 2) < tick {
 		k++
 	}
 	return k, stray
 }
 
-// P15.2: the times of bits far from their anchor, which only long inputs with many bits lead to.
+// P15.2: samples and changes far from their anchor, which only long inputs with many bits lead to.
 func TestFarTimes(t *testing.T) {
 	r := rand.New(rand.NewSource(1))
 	for _, c := range farClocks() {
@@ -55,11 +50,6 @@ func TestFarTimes(t *testing.T) {
 			if irregular(c, tick) != stray {
 				t.Errorf("%v at %d: irregular is %v", c, tick, !stray)
 			}
-			for i := k; i < k+3; i++ {
-				if b, s := boundary(c, i), sample(c, i); b != exact(c, i, 1) || s != exact(c, 2*i+1, 2) {
-					t.Errorf("%v: boundary %d, sample %d of %d", c, b, s, i)
-				}
-			}
 		}
 	}
 }
@@ -69,11 +59,11 @@ func TestBitsFarFromTheirAnchor(t *testing.T) {
 	for _, c := range farClocks() {
 		for _, at := range []int{1 << 33, 1<<36 + 5, 1<<39 + 77, api.MaxTime - 200<<20} {
 			s := api.State{Phase: steady, At: at, From: 3, Prev: 1}
-			to := at + exact(c, 199, 1)
+			to := at + decodertest.Times(c, 199, 1)
 			_, got := Step(api.Clock{T: c}, s, api.Event{Kind: api.EvLevel, From: at, To: to, Value: 1})
 			var want []api.Event
-			for k, _ := placed(c, at-3); 3+exact(c, 2*k+1, 2) < to; k++ {
-				want = append(want, api.Event{Kind: api.EvBit, From: 3 + exact(c, k, 1), To: 3 + exact(c, k+1, 1), Value: 1})
+			for k, _ := placed(c, at-3); 3+decodertest.Times(c, 2*k+1, 2) < to; k++ {
+				want = append(want, api.Event{Kind: api.EvBit, From: 3 + decodertest.Times(c, k, 1), To: 3 + decodertest.Times(c, k+1, 1), Value: 1})
 			}
 			if !slices.Equal(got, want) || len(got) < 198 {
 				t.Errorf("%v at %d: %d bits, not %d", c, at, len(got), len(want))
