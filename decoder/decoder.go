@@ -24,6 +24,12 @@ func AcceptsBit(at int, e api.Event) bool {
 	return event.Valid(e) && e.Kind == api.EvBit && e.From >= at && (e.Value == 0 || e.Value == 1)
 }
 
+// Aborted returns the event of some kind for what was collected from a tick on and given up at another one, or where it
+// begins if that is later (D6, D7).
+func Aborted(kind, from, to int) api.Event {
+	return api.Event{Kind: kind, From: from, To: max(from, to), Fault: api.FtAborted}
+}
+
 // CheckItems returns the error of items that cannot be encoded, or OK: what applies to every sender, with gaps of at most
 // some ticks, and then what check returns for an item (D9).
 func CheckItems(l []api.Item, gap int, check func(api.Item) api.Errno) api.Errno {
@@ -54,6 +60,11 @@ func CheckBits(item api.Item) api.Errno {
 	if !bits.Valid(item.Data) {
 		return api.ErrSyntax
 	}
+	return CheckPlain(item)
+}
+
+// CheckPlain returns the error of an item that should have nothing but a gap and data, or OK.
+func CheckPlain(item api.Item) api.Errno {
 	if item.Value != 0 || item.Aux != 0 || item.Fault != api.FtNone {
 		return api.ErrArg
 	}

@@ -7,6 +7,7 @@ import (
 
 	"signalbench/api"
 	"signalbench/decoder"
+	"signalbench/decodertest"
 )
 
 // bit returns an event of a bit.
@@ -59,6 +60,15 @@ func TestAcceptsBit(t *testing.T) {
 	}
 }
 
+// D6
+func TestAborted(t *testing.T) {
+	for to, want := range map[int]int{0: 5, 4: 5, 5: 5, 6: 6, api.MaxTime: api.MaxTime} {
+		if got := decoder.Aborted(api.EvFrame, 5, to); got != (api.Event{Kind: api.EvFrame, From: 5, To: want, Fault: api.FtAborted}) {
+			t.Errorf("to %d: %v", to, got)
+		}
+	}
+}
+
 // D9
 func TestCheckItems(t *testing.T) {
 	check := func(item api.Item) api.Errno { return api.Errno(item.Value) }
@@ -98,6 +108,20 @@ func TestCheckBits(t *testing.T) {
 	} {
 		if e := decoder.CheckBits(item); e != want {
 			t.Errorf("%v: error %d, not %d", item, e, want)
+		}
+	}
+}
+
+// D9
+func TestCheckPlain(t *testing.T) {
+	for _, item := range []api.Item{{}, {Gap: -1}, {Gap: 3, Data: "x"}} {
+		if e := decoder.CheckPlain(item); e != api.OK {
+			t.Errorf("%v: error %d", item, e)
+		}
+		for _, other := range decodertest.OtherFields(item) {
+			if e := decoder.CheckPlain(other); e != api.ErrArg {
+				t.Errorf("%v: error %d", other, e)
+			}
 		}
 	}
 }

@@ -2,6 +2,7 @@ package decodertest
 
 import (
 	"math"
+	"strings"
 
 	"signalbench/api"
 )
@@ -51,16 +52,24 @@ func (d Decoder[C]) OtherStates(c C, events func(at int) [][2]api.Event) {
 	for _, phase := range numbers {
 		for _, at := range numbers {
 			for _, from := range numbers {
-				s := api.State{Phase: phase, At: at, From: from, Count: from, Acc: at, Aux: phase, Prev: phase, Data: "x"}
-				for _, pair := range events(at) {
-					next, _ := d.Step(c, s, pair[0])
-					next, _ = d.Step(c, next, pair[1])
-					d.End(c, next)
+				s := api.State{Phase: phase, At: at, From: from, Count: from, Acc: at, Aux: phase, Prev: phase}
+				for _, data := range []string{"", "x", "1100", "111101100010001", strings.Repeat("\x00", 69)} {
+					s.Data = data
+					d.use(c, s, events(at))
 				}
-				d.End(c, s)
 			}
 		}
 	}
+}
+
+// use calls Step and End with a state and with pairs of events.
+func (d Decoder[C]) use(c C, s api.State, pairs [][2]api.Event) {
+	for _, pair := range pairs {
+		next, _ := d.Step(c, s, pair[0])
+		next, _ = d.Step(c, next, pair[1])
+		d.End(c, next)
+	}
+	d.End(c, s)
 }
 
 // LevelsAfter returns pairs of events of one channel, some of which begin at a tick.

@@ -90,3 +90,12 @@ func Spoil[T any](l []T, x T) {
 		l[i] = x
 	}
 }
+
+// EveryByte returns all bytes, the least one first.
+func EveryByte() string {
+	b := make([]byte, 256)
+	for i := range b {
+		b[i] = byte(i)
+	}
+	return string(b)
+}

@@ -14,15 +14,6 @@ import (
 	"signalbench/wave"
 )
 
-// of returns items with these data, each after another gap.
-func of(data ...string) []api.Item {
-	var l []api.Item
-	for i, d := range data {
-		l = append(l, api.Item{Gap: i, Data: d})
-	}
-	return l
-}
-
 // faulty returns an item of which one bit has no edge in its middle.
 func faulty(data string, at int) api.Item {
 	return api.Item{Data: data, Aux: at, Fault: api.FtCode}

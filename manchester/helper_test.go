@@ -23,6 +23,7 @@ var (
 	levels = decodertest.Levels
 	drawn  = decodertest.Drawn
 	cut    = decodertest.Cut
+	of     = decodertest.Items
 )
 
 // ieee and thomas return the two codes with this bit time.

@@ -133,11 +133,6 @@ func TestInvertedInput(t *testing.T) {
 	}
 }
 
-// ignored returns events that differ from the given one in a way in which they are never accepted.
-func ignored(e api.Event) []api.Event {
-	return slices.Concat(decodertest.Invalid(e), decodertest.OtherKinds(e), decodertest.Changed(e, decodertest.Value, -1<<53, -2, -1, 2, 3, 4, 48, 49, 1<<53))
-}
-
 // D4: an ignored event changes nothing, be it faulty or not.
 func TestIgnoredEvents(t *testing.T) {
 	l := bits("01101000", 5)
@@ -149,7 +144,7 @@ func TestIgnoredEvents(t *testing.T) {
 			for _, fault := range []int{api.FtNone, api.FtFraming, api.FtAborted} {
 				same, opposite := e, e
 				same.Fault, opposite.Fault, opposite.Value = fault, fault, 1-e.Value
-				wrong = append(wrong, slices.Concat(ignored(same), ignored(opposite))...)
+				wrong = append(wrong, slices.Concat(decodertest.WrongBits(same), decodertest.WrongBits(opposite))...)
 				if i > 0 {
 					last := l[i-1].From
 					wrong = append(wrong, bit(e.Value, last-1, e.To, 0, fault), bit(1-e.Value, last-1, last+8, 0, fault), bit(1-e.Value, 0, end, 0, fault))
@@ -162,7 +157,7 @@ func TestIgnoredEvents(t *testing.T) {
 			s, _ = nrzi.Step(c, s, e)
 		}
 		decodes(t, c, mixed, decoded(c, l))
-		decodes(t, c, ignored(bit(0, 5, 9, 0, 0)), nil)
+		decodes(t, c, decodertest.WrongBits(bit(0, 5, 9, 0, 0)), nil)
 	}
 }
 

@@ -1,7 +1,6 @@
 package nrzi_test
 
 import (
-	"math"
 	"math/rand"
 	"slices"
 	"strings"
@@ -11,15 +10,6 @@ import (
 	"signalbench/decodertest"
 	"signalbench/nrzi"
 )
-
-// joined returns the data of all items.
-func joined(l []api.Item) string {
-	var s strings.Builder
-	for _, item := range l {
-		s.WriteString(item.Data)
-	}
-	return s.String()
-}
 
 // encodes reports an error unless the items are encoded as items with the same gaps and as many bits, which are decoded as theirs.
 func encodes(t *testing.T, c api.Nrzi, l []api.Item) {
@@ -34,7 +24,7 @@ func encodes(t *testing.T, c api.Nrzi, l []api.Item) {
 			t.Errorf("%v %s: item %d: %.300q", c, brief(l), i, item.Data)
 		}
 	}
-	if s := model(c, joined(got)); s != joined(l) {
+	if s := model(c, decodertest.Joined(got)); s != decodertest.Joined(l) {
 		t.Errorf("%v %s: %s, decoded as %.300s", c, brief(l), brief(got), s)
 	}
 }
@@ -127,14 +117,8 @@ func wrongItems() map[api.Item]api.Errno {
 	for _, s := range []string{"2", " ", "\x00", "\x01", "/", "0x1", "1 ", "\xff", "١", "-1"} {
 		all[api.Item{Data: s}] = api.ErrSyntax
 	}
-	for _, n := range []int{math.MinInt, -1, api.MaxGap + 1, math.MaxInt} {
-		all[api.Item{Gap: n, Data: "1"}] = api.ErrArg
-	}
-	for _, n := range []int{math.MinInt, -1, 1, 2, api.FtCode, api.FtUnknown, 13, math.MaxInt} {
-		all[api.Item{Value: n, Data: "1"}] = api.ErrArg
-		all[api.Item{Aux: n, Data: "1"}] = api.ErrArg
-		all[api.Item{Fault: n, Data: "1"}] = api.ErrArg
-		all[api.Item{Fault: n}] = api.ErrArg
+	for _, item := range slices.Concat(decodertest.OtherGaps(api.Item{Data: "1"}, api.MaxGap), decodertest.OtherFields(api.Item{Data: "1"}), decodertest.OtherFields(api.Item{})) {
+		all[item] = api.ErrArg
 	}
 	return all
 }
@@ -182,11 +166,11 @@ func TestRoundTrip(t *testing.T) {
 			if e != api.OK {
 				t.Fatalf("%v %s: error %d", c, brief(l), e)
 			}
-			sent := random(r, len(joined(l)))
+			sent := random(r, len(decodertest.Joined(l)))
 			want := slices.Clone(sent)
 			for i := range sent {
-				sent[i].Value = int(joined(encoded)[i] - '0')
-				want[i].Value, want[i].Data = int(joined(l)[i]-'0'), ""
+				sent[i].Value = int(decodertest.Joined(encoded)[i] - '0')
+				want[i].Value, want[i].Data = int(decodertest.Joined(l)[i]-'0'), ""
 			}
 			decodes(t, c, sent, want)
 		}

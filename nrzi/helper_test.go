@@ -18,6 +18,11 @@ const end = api.MaxTime
 var functions = decodertest.Decoder[api.Nrzi]{Start: nrzi.Start, Step: nrzi.Step, End: nrzi.End}
 
 var (
+	bits  = decodertest.Bits
+	items = decodertest.Items
+)
+
+var (
 	one  = api.Nrzi{}
 	zero = api.Nrzi{Zero: true}
 	both = []api.Nrzi{one, zero}
@@ -26,15 +31,6 @@ var (
 // bit returns an event of a bit.
 func bit(value, from, to, aux, fault int) api.Event {
 	return api.Event{Kind: api.EvBit, From: from, To: to, Value: value, Aux: aux, Fault: fault}
-}
-
-// bits returns an event of 4 ticks for each bit of s, one after the other, the first one from a tick on.
-func bits(s string, at int) []api.Event {
-	var l []api.Event
-	for i := range s {
-		l = append(l, bit(int(s[i]-'0'), at+4*i, at+4*i+4, 0, api.FtNone))
-	}
-	return l
 }
 
 // model returns the decoded bits of s, from the definition.
@@ -83,30 +79,11 @@ func decodes(t *testing.T, c api.Nrzi, l, want []api.Event) {
 
 // random returns accepted events with random fields; some of them begin at the same tick, overlap, are empty or faulty.
 func random(r *rand.Rand, n int) []api.Event {
-	var l []api.Event
-	from := r.Intn(1 << r.Intn(39))
-	for range n {
-		b := bit(r.Intn(2), from, from+r.Intn(20), 0, api.FtNone)
+	l := decodertest.RandomTimes(decodertest.Sequence(r.Int(), n), r.Intn)
+	for i := range l {
 		if r.Intn(3) == 0 {
-			b.Fault = r.Intn(api.FtUnknown + 1)
+			l[i].Fault = r.Intn(api.FtUnknown + 1)
 		}
-		if r.Intn(3) == 0 {
-			b.Aux = r.Intn(1<<54) - 1<<53
-		}
-		if r.Intn(3) == 0 {
-			b.Data = strings.Repeat("x", r.Intn(5))
-		}
-		l = append(l, b)
-		from += r.Intn(3) * r.Intn(20)
-	}
-	return l
-}
-
-// items returns items with these data.
-func items(data ...string) []api.Item {
-	var l []api.Item
-	for i, d := range data {
-		l = append(l, api.Item{Gap: i, Data: d})
 	}
 	return l
 }
