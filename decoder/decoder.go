@@ -31,7 +31,8 @@ func Aborted(kind, from, to int) api.Event {
 }
 
 // CheckItems returns the error of items that cannot be encoded, or OK: what applies to every sender, with gaps of at most
-// some ticks, and then what check returns for an item (D9).
+// some ticks, and then what check returns for an item (D9). It is called once for each item, one after the other, up to the
+// first error, so that it may remember the items before.
 func CheckItems(l []api.Item, gap int, check func(api.Item) api.Errno) api.Errno {
 	if len(l) > api.MaxItems {
 		return api.ErrLimit

@@ -99,6 +99,24 @@ func TestCheckItems(t *testing.T) {
 	}
 }
 
+// D9: the items are checked once each, one after the other, up to the first error.
+func TestCheckedItems(t *testing.T) {
+	for _, want := range [][]int{{0, 1, 2, 3}, {0, 1, 3}, {3}, {0, 0, 1, 3}} {
+		var l []api.Item
+		for _, n := range want {
+			l = append(l, api.Item{Value: n})
+		}
+		var got []int
+		e := decoder.CheckItems(append(l, api.Item{Value: 5}, api.Item{Gap: -1}), 0, func(item api.Item) api.Errno {
+			got = append(got, item.Value)
+			return api.Errno(item.Value / 3)
+		})
+		if !slices.Equal(got, want) || e != api.ErrArg {
+			t.Errorf("%v, not %v, error %d", got, want, e)
+		}
+	}
+}
+
 // D9
 func TestCheckBits(t *testing.T) {
 	for item, want := range map[api.Item]api.Errno{
